@@ -1,0 +1,1 @@
+"""The scores of a pinball table."""
