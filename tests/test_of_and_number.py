@@ -1,35 +1,9 @@
 """The calls of and number, and E1: digits are the number's."""
 
-import contextlib
-import inspect
-import io
 import unittest
 
+from helper import HIGHEST_SCORE, LAST_INPUT, LAST_NUMBER, numbers_of_every_length, score_as_read
 from pinscores import scores
-
-LAST_NUMBER = 10**12 - 1
-HIGHEST_SCORE = 0x999999999999
-LAST_INPUT = 2**64 - 1
-
-
-def numbers_of_every_length():
-    """Some hundred numbers of each length, 1 to 12 digits, both ends of each among them."""
-    found = list(range(1000))
-    for length in range(4, 13):
-        low, high = 10 ** (length - 1), 10**length
-        step = (high - low) // 499
-        found.extend(range(low, high, step))
-        found.extend([low + 1, high - 2, high - 1])
-        # Each digit by itself at each place, with noughts and with nines about it.
-        for digit in range(1, 10):
-            found.append(digit * low)
-            found.extend(high - 1 - digit * 10**place for place in range(length))
-    return found
-
-
-def score_as_read(number):
-    """The score by Python's own reading of digits, not by the program's."""
-    return int(str(number), 16)
 
 
 class OfTest(unittest.TestCase):
@@ -139,58 +113,6 @@ class DigitsAreTheNumbersTest(unittest.TestCase):
         for length in range(1, 13):
             self.assertGreaterEqual(lengths.count(length), 10, length)
         self.assertEqual(max(lengths), 12)
-
-
-class InterfaceTest(unittest.TestCase):
-    calls = (
-        (scores.of, (0, 1, 7, 1234567, LAST_NUMBER, 10**12, LAST_INPUT)),
-        (scores.number, (0, 1, 0xA, 0x1234567, HIGHEST_SCORE, 2**48, LAST_INPUT)),
-    )
-
-    def test_names_of_the_arguments(self):
-        self.assertEqual(list(inspect.signature(scores.of).parameters), ["number"])
-        self.assertEqual(list(inspect.signature(scores.number).parameters), ["a"])
-        self.assertEqual(scores.of(number=12), [0, 0x12])
-        self.assertEqual(scores.number(a=0x12), [0, 12])
-
-    def test_answer_is_a_list_of_whole_numbers(self):
-        for call, values in self.calls:
-            for value in values:
-                answer = call(value)
-                self.assertIs(type(answer), list)
-                self.assertEqual([type(each) for each in answer], [int] * len(answer))
-
-    def test_refusal_stands_alone_and_else_two_numbers_stand(self):
-        for call, values in self.calls:
-            for value in values:
-                answer = call(value)
-                self.assertEqual(len(answer), 1 if answer[0] < 0 else 2, value)
-
-    def test_answer_is_a_new_list_each_time(self):
-        for call, values in self.calls:
-            for value in values:
-                first = call(value)
-                kept = list(first)
-                second = call(value)
-                self.assertIsNot(first, second)
-                first.append(5)
-                first[0] = 99
-                self.assertEqual(second, kept)
-                self.assertEqual(call(value), kept)
-
-    def test_nothing_is_kept_between_calls(self):
-        for call, values in self.calls:
-            forward = [call(value) for value in values]
-            backward = [call(value) for value in reversed(values)]
-            self.assertEqual(forward, list(reversed(backward)))
-
-    def test_nothing_is_printed(self):
-        out, err = io.StringIO(), io.StringIO()
-        with contextlib.redirect_stdout(out), contextlib.redirect_stderr(err):
-            for call, values in self.calls:
-                for value in values:
-                    call(value)
-        self.assertEqual((out.getvalue(), err.getvalue()), ("", ""))
 
 
 if __name__ == "__main__":

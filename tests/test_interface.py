@@ -1,0 +1,104 @@
+"""What holds for every call: names, kinds, new lists, nothing kept and nothing printed."""
+
+import contextlib
+import inspect
+import io
+import unittest
+
+from helper import HIGHEST_SCORE, LAST_INPUT, LAST_NUMBER
+from pinscores import scores
+
+PARAMETERS = {
+    "of": ["number"],
+    "number": ["a"],
+    "add": ["a", "b"],
+    "times": ["a", "m"],
+}
+
+# Of each call its arguments, and how many numbers are answered.
+CALLS = (
+    ("of", (0,), 2),
+    ("of", (1,), 2),
+    ("of", (1234567,), 2),
+    ("of", (LAST_NUMBER,), 2),
+    ("of", (10**12,), 1),
+    ("of", (LAST_INPUT,), 1),
+    ("number", (0,), 2),
+    ("number", (1,), 2),
+    ("number", (0x1234567,), 2),
+    ("number", (HIGHEST_SCORE,), 2),
+    ("number", (0xA,), 1),
+    ("number", (2**48,), 1),
+    ("number", (LAST_INPUT,), 1),
+    ("add", (0, 0), 3),
+    ("add", (0x1234567, 0x7654321), 3),
+    ("add", (HIGHEST_SCORE, 1), 3),
+    ("add", (HIGHEST_SCORE, HIGHEST_SCORE), 3),
+    ("add", (0xA, 1), 1),
+    ("add", (1, LAST_INPUT), 1),
+    ("times", (0, 0), 3),
+    ("times", (0x1234567, 1), 3),
+    ("times", (0x500000000000, 2), 3),
+    ("times", (HIGHEST_SCORE, 255), 3),
+    ("times", (2**48, 2), 1),
+    ("times", (1, 256), 1),
+)
+
+
+def answer_of(name, arguments):
+    return getattr(scores, name)(*arguments)
+
+
+class InterfaceTest(unittest.TestCase):
+    def test_names_of_the_arguments(self):
+        for name, parameters in PARAMETERS.items():
+            self.assertEqual(list(inspect.signature(getattr(scores, name)).parameters), parameters, name)
+
+    def test_arguments_may_be_handed_in_by_name(self):
+        for name, arguments, length in CALLS:
+            by_name = getattr(scores, name)(**dict(zip(PARAMETERS[name], arguments)))
+            self.assertEqual(by_name, answer_of(name, arguments), (name, arguments))
+
+    def test_every_call_is_tried(self):
+        self.assertEqual({name for name, arguments, length in CALLS}, set(PARAMETERS))
+
+    def test_answer_is_a_list_of_whole_numbers(self):
+        for name, arguments, length in CALLS:
+            answer = answer_of(name, arguments)
+            self.assertIs(type(answer), list, (name, arguments))
+            self.assertEqual([type(each) for each in answer], [int] * length, (name, arguments))
+
+    def test_refusal_stands_alone_and_what_is_answered_behind_0(self):
+        for name, arguments, length in CALLS:
+            first = answer_of(name, arguments)[0]
+            if length == 1:
+                self.assertLess(first, 0, (name, arguments))
+            else:
+                self.assertEqual(first, 0, (name, arguments))
+
+    def test_answer_is_a_new_list_each_time(self):
+        for name, arguments, length in CALLS:
+            first = answer_of(name, arguments)
+            kept = list(first)
+            second = answer_of(name, arguments)
+            self.assertIsNot(first, second, (name, arguments))
+            first.append(5)
+            first[0] = 99
+            self.assertEqual(second, kept, (name, arguments))
+            self.assertEqual(answer_of(name, arguments), kept, (name, arguments))
+
+    def test_nothing_is_kept_between_calls(self):
+        forward = [answer_of(name, arguments) for name, arguments, length in CALLS]
+        backward = [answer_of(name, arguments) for name, arguments, length in reversed(CALLS)]
+        self.assertEqual(forward, list(reversed(backward)))
+
+    def test_nothing_is_printed(self):
+        out, err = io.StringIO(), io.StringIO()
+        with contextlib.redirect_stdout(out), contextlib.redirect_stderr(err):
+            for name, arguments, length in CALLS:
+                answer_of(name, arguments)
+        self.assertEqual((out.getvalue(), err.getvalue()), ("", ""))
+
+
+if __name__ == "__main__":
+    unittest.main()
