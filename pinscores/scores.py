@@ -5,6 +5,12 @@ NUMBERS_END = 1000000000000
 # One past the highest whole number of twelve digits of four bits: 2^48.
 SCORES_END = 0x1000000000000
 HIGHEST_MULTIPLIER = 255
+MOST_LEVELS = 256
+MOST_PLACES = 16
+# The last places are lit even where a nought stands in front there.
+PLACES_ALWAYS_LIT = 2
+SEGMENTS = (63, 6, 91, 79, 102, 109, 125, 7, 127, 111)
+COMMA = 128
 
 
 # A score and its number have the same digits and differ only in what a place
@@ -44,6 +50,38 @@ def is_score(a):
     return True
 
 
+# Scores stand in the order of their numbers, so levels are compared as they are;
+# beginning at 0 also keeps out a level that is not above 0.
+def are_levels(levels):
+    before = 0
+    for level in levels:
+        if not is_score(level) or level <= before:
+            return False
+        before = level
+    return True
+
+
+# The level comes round again 10^12 further on, once the score has rolled over.
+def times_passed(level, start, end):
+    count = 0
+    if start < level and level <= end:
+        count = count + 1
+    if level + NUMBERS_END <= end:
+        count = count + 1
+    return count
+
+
+# What is left of the score from this place on is 0 just where nothing but
+# noughts stand in front, however many places there are.
+def segments_of_place(rest, behind):
+    if rest == 0 and behind >= PLACES_ALWAYS_LIT:
+        return 0
+    segments = SEGMENTS[rest % 16]
+    if behind > 0 and behind % 3 == 0:
+        return segments + COMMA
+    return segments
+
+
 def of(number):
     if number >= NUMBERS_END:
         return [-1]
@@ -66,3 +104,28 @@ def times(a, m):
     if not is_score(a) or m > HIGHEST_MULTIPLIER:
         return [-1]
     return [0] + roll_over(number_from(a) * m)
+
+
+def passed(a, b, levels):
+    if len(levels) > MOST_LEVELS:
+        return [-2]
+    if not is_score(a) or not is_score(b) or not are_levels(levels):
+        return [-1]
+    start = number_from(a)
+    end = start + number_from(b)
+    count = 0
+    for level in levels:
+        count = count + times_passed(number_from(level), start, end)
+    return [0, count]
+
+
+def show(a, w):
+    if not is_score(a) or w == 0 or w > MOST_PLACES:
+        return [-1]
+    places = []
+    rest = a
+    for behind in range(w):
+        places.append(segments_of_place(rest, behind))
+        rest = rest // 16
+    places.reverse()
+    return [0] + places

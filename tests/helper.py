@@ -38,3 +38,13 @@ def some_numbers_of_every_length():
 def score_as_read(number):
     """The score by Python's own reading of digits, not by the program's."""
     return int(str(number), 16)
+
+
+class Untouchable(list):
+    """A list that can be read alone: a change fails at once, though it be undone later."""
+
+    def refuse(self, *arguments, **keywords):
+        raise AssertionError("a list that was handed in is changed")
+
+    append = clear = extend = insert = pop = remove = reverse = sort = refuse
+    __setitem__ = __delitem__ = __iadd__ = __imul__ = refuse

@@ -13,6 +13,8 @@ PARAMETERS = {
     "number": ["a"],
     "add": ["a", "b"],
     "times": ["a", "m"],
+    "passed": ["a", "b", "levels"],
+    "show": ["a", "w"],
 }
 
 # Of each call its arguments, and how many numbers are answered.
@@ -42,6 +44,18 @@ CALLS = (
     ("times", (HIGHEST_SCORE, 255), 3),
     ("times", (2**48, 2), 1),
     ("times", (1, 256), 1),
+    ("passed", (0, 0, []), 2),
+    ("passed", (0, 1, [1]), 2),
+    ("passed", (HIGHEST_SCORE, 0x500, [1, 0x10, 0x600]), 2),
+    ("passed", (0, 1, [0]), 1),
+    ("passed", (0xA, 1, [1]), 1),
+    ("passed", (0, 1, list(range(257))), 1),
+    ("show", (0, 1), 2),
+    ("show", (0x1234567, 7), 8),
+    ("show", (HIGHEST_SCORE, 16), 17),
+    ("show", (0xA, 7), 1),
+    ("show", (1, 0), 1),
+    ("show", (1, 17), 1),
 )
 
 
