@@ -11,6 +11,13 @@ MOST_PLACES = 16
 PLACES_ALWAYS_LIT = 2
 SEGMENTS = (63, 6, 91, 79, 102, 109, 125, 7, 127, 111)
 COMMA = 128
+ENTRIES = 8
+# An entry is a score and its letters, one number behind another.
+LETTERS = 3
+ENTRY_SIZE = 4
+FIRST_LETTER = 65
+LAST_LETTER = 90
+BLANK = 32
 
 
 # A score and its number have the same digits and differ only in what a place
@@ -82,6 +89,36 @@ def segments_of_place(rest, behind):
     return segments
 
 
+def are_letters(letters):
+    if len(letters) != LETTERS:
+        return False
+    for letter in letters:
+        if letter != BLANK and (letter < FIRST_LETTER or letter > LAST_LETTER):
+            return False
+    return True
+
+
+# Scores stand in the order of their numbers, so they are compared as they are.
+def is_best(best):
+    if len(best) != ENTRIES * ENTRY_SIZE:
+        return False
+    for at in range(0, len(best), ENTRY_SIZE):
+        if not is_score(best[at]) or not are_letters(best[at + 1:at + ENTRY_SIZE]):
+            return False
+        if at > 0 and best[at] > best[at - ENTRY_SIZE]:
+            return False
+    return True
+
+
+# The row falls, so those as high or higher are the ones in front.
+def place_of(score, best):
+    place = 0
+    for at in range(0, len(best), ENTRY_SIZE):
+        if best[at] >= score:
+            place = place + 1
+    return place
+
+
 def of(number):
     if number >= NUMBERS_END:
         return [-1]
@@ -129,3 +166,22 @@ def show(a, w):
         rest = rest // 16
     places.reverse()
     return [0] + places
+
+
+def judge(best):
+    if not is_best(best):
+        return [-8]
+    return [0]
+
+
+def enter(score, best, letters):
+    if not is_best(best):
+        return [-8]
+    if not is_score(score) or not are_letters(letters):
+        return [-1]
+    place = place_of(score, best)
+    if place == ENTRIES:
+        return [-4]
+    at = place * ENTRY_SIZE
+    row = best[:at] + [score] + letters + best[at:-ENTRY_SIZE]
+    return [0, place] + row

@@ -8,10 +8,10 @@ import unittest
 
 PACKAGE = pathlib.Path(__file__).resolve().parent.parent / "pinscores"
 
-# Narrower than the language: what the program has had no need of is left out.
+# Narrower than the language: what the program has had no need of is left out, and it imports nothing.
 ALLOWED_NODES = (
     ast.Module, ast.FunctionDef, ast.arguments, ast.arg, ast.Assign, ast.AugAssign, ast.If, ast.While, ast.For,
-    ast.Return, ast.Break, ast.Continue, ast.Pass, ast.Expr, ast.ImportFrom, ast.alias,
+    ast.Return, ast.Break, ast.Continue, ast.Pass, ast.Expr,
     ast.Constant, ast.List, ast.Tuple, ast.Dict, ast.Name, ast.Subscript, ast.Slice, ast.Attribute,
     ast.Call, ast.keyword, ast.BinOp, ast.UnaryOp, ast.BoolOp, ast.Compare, ast.IfExp, ast.ListComp,
     ast.comprehension, ast.expr_context, ast.operator, ast.unaryop, ast.boolop, ast.cmpop,
@@ -69,7 +69,7 @@ class LanguageTest(unittest.TestCase):
             self.assertIsInstance(body[0].value.value, str, path)
             bound = []
             for node in body[1:]:
-                self.assertIsInstance(node, (ast.ImportFrom, ast.FunctionDef, ast.Assign), path)
+                self.assertIsInstance(node, (ast.FunctionDef, ast.Assign), path)
                 if isinstance(node, ast.FunctionDef):
                     bound.append(node.name)
                 if isinstance(node, ast.Assign):
@@ -102,8 +102,6 @@ class LanguageTest(unittest.TestCase):
 
     def test_names(self):
         for where, node in nodes():
-            if isinstance(node, ast.ImportFrom):
-                self.assertTrue(node.level == 0 and node.module.startswith("pinscores."), where)
             for name in (getattr(node, field, None) for field in ("id", "arg", "attr", "name")):
                 if isinstance(name, str):
                     self.assertRegex(name, r"^[A-Za-z][A-Za-z0-9_]*$", where)
